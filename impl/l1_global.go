@@ -35,8 +35,8 @@ const (
 const (
 	roleLetters  = "ABC"
 	labelLetters = "abcd"
-	// A node takes at most the three bytes of AB{ and two for its branch: the label and | or }.
-	maxGlobalText = MaxGlobalNodes * 5
+	// A node takes at most the three bytes of AB{ or B!{ and two for its branch: the label and | or }.
+	maxTypeText = MaxGlobalNodes * 5
 )
 
 // IsRole reports whether s is the name of a role.
@@ -59,33 +59,9 @@ func GlobalNodes(g Global) int {
 
 // GlobalEqual reports whether a and b are structurally equal.
 func GlobalEqual(a Global, b Global) bool {
-	// An invalid type may contain itself or be exponentially larger than its
-	// memory, so no pair of branch slices is compared twice.
-	seen := map[globalBranchPair]bool{}
-	work := []globalPair{{a, b}}
-	for len(work) > 0 {
-		last := len(work) - 1
-		x, y := work[last].a, work[last].b
-		work = work[:last]
-		if !sameGlobalFields(x, y) {
-			return false
-		}
-		if len(x.Branches) == 0 {
-			continue
-		}
-		key := globalBranchPair{&x.Branches[0], &y.Branches[0], len(x.Branches)}
-		if seen[key] {
-			continue
-		}
-		seen[key] = true
-		for i := range x.Branches {
-			if x.Branches[i].Label != y.Branches[i].Label {
-				return false
-			}
-			work = append(work, globalPair{x.Branches[i].Next, y.Branches[i].Next})
-		}
-	}
-	return true
+	return sameTrees(a, b, sameGlobalFields,
+		func(g Global) []GlobalBranch { return g.Branches },
+		func(b GlobalBranch) (string, Global) { return b.Label, b.Next })
 }
 
 // FormatGlobal returns the text of g.
@@ -100,10 +76,10 @@ func FormatGlobal(g Global) string {
 
 // ParseGlobal parses the text of a global type.
 func ParseGlobal(text string) (Global, bool) {
-	if len(text) > maxGlobalText {
+	if len(text) > maxTypeText {
 		return Global{}, false
 	}
-	p := globalParser{rest: text}
+	p := globalParser{textReader: textReader{text}}
 	for {
 		g, ok := p.begin()
 		if !ok {
@@ -126,15 +102,7 @@ func ParseGlobal(text string) (Global, bool) {
 
 // GlobalRoles returns the roles of g in ascending order.
 func GlobalRoles(g Global) string {
-	// The letters of roles occur in a text only as From and To.
-	text := FormatGlobal(g)
-	var roles strings.Builder
-	for _, role := range roleLetters {
-		if strings.ContainsRune(text, role) {
-			roles.WriteRune(role)
-		}
-	}
-	return roles.String()
+	return rolesIn(FormatGlobal(g))
 }
 
 // UnfoldGlobal unfolds the recursion at the root of g.
@@ -199,7 +167,8 @@ func globalNodeOf(g Global) globalNode {
 			return globalEndNode{}
 		}
 	case GlobalMessage:
-		if IsRole(g.From) && IsRole(g.To) && g.From != g.To && g.Index == 0 && branchesFit(g.Branches) {
+		if IsRole(g.From) && IsRole(g.To) && g.From != g.To && g.Index == 0 &&
+			labelsFit(len(g.Branches), MaxBranches, func(i int) string { return g.Branches[i].Label }) {
 			return globalMessageNode{g.From, g.To, g.Branches}
 		}
 	case GlobalRec:
@@ -214,13 +183,14 @@ func globalNodeOf(g Global) globalNode {
 	return nil
 }
 
-// branchesFit reports whether a message may have these branches.
-func branchesFit(branches []GlobalBranch) bool {
-	if len(branches) == 0 || len(branches) > MaxBranches {
+// labelsFit reports whether the n labels can be those of the branches of a
+// node, which has at most the number most of them.
+func labelsFit(n int, most int, label func(i int) string) bool {
+	if n == 0 || n > most {
 		return false
 	}
-	for i, b := range branches {
-		if !IsLabel(b.Label) || i > 0 && b.Label <= branches[i-1].Label {
+	for i := range n {
+		if !IsLabel(label(i)) || i > 0 && label(i) <= label(i-1) {
 			return false
 		}
 	}
@@ -261,18 +231,62 @@ func countGlobal(g Global, s globalScope, nodes *int) bool {
 	return false
 }
 
-type globalPair struct{ a, b Global }
+// sameGlobalFields compares two nodes without their branches.
+func sameGlobalFields(a Global, b Global) bool {
+	return a.Kind == b.Kind && a.From == b.From && a.To == b.To && a.Index == b.Index
+}
 
-// globalBranchPair identifies two slices of branches of the same length.
-type globalBranchPair struct {
-	a, b   *GlobalBranch
+// branchPair identifies two slices of branches of the same length.
+type branchPair[B any] struct {
+	a, b   *B
 	length int
 }
 
-// sameGlobalFields compares two nodes, but of their branches only the number.
-func sameGlobalFields(a Global, b Global) bool {
-	return a.Kind == b.Kind && a.From == b.From && a.To == b.To && a.Index == b.Index &&
-		len(a.Branches) == len(b.Branches)
+// sameTrees reports whether two trees are equal, given what a node has beside
+// its branches, what its branches are and what a branch consists of.
+func sameTrees[N, B any](a N, b N, sameFields func(a, b N) bool, branches func(N) []B, parts func(B) (string, N)) bool {
+	// An invalid tree may contain itself or be exponentially larger than its
+	// memory, so no pair of branch slices is compared twice.
+	seen := map[branchPair[B]]bool{}
+	work := [][2]N{{a, b}}
+	for len(work) > 0 {
+		last := len(work) - 1
+		x, y := work[last][0], work[last][1]
+		work = work[:last]
+		below, other := branches(x), branches(y)
+		if !sameFields(x, y) || len(below) != len(other) {
+			return false
+		}
+		if len(below) == 0 {
+			continue
+		}
+		key := branchPair[B]{&below[0], &other[0], len(below)}
+		if seen[key] {
+			continue
+		}
+		seen[key] = true
+		for i := range below {
+			label, next := parts(below[i])
+			otherLabel, otherNext := parts(other[i])
+			if label != otherLabel {
+				return false
+			}
+			work = append(work, [2]N{next, otherNext})
+		}
+	}
+	return true
+}
+
+// rolesIn returns the roles in the text of a type, in ascending order. The
+// letters of roles occur in it as nothing else.
+func rolesIn(text string) string {
+	var roles strings.Builder
+	for _, role := range roleLetters {
+		if strings.ContainsRune(text, role) {
+			roles.WriteRune(role)
+		}
+	}
+	return roles.String()
 }
 
 // writeGlobal appends the text of g, which is valid, to text.
@@ -330,54 +344,65 @@ func copyGlobal(g Global, env []globalCopier, depth int, nodes *int) (Global, bo
 	return result, true
 }
 
-// globalParser reads a text from left to right.
-type globalParser struct {
-	rest string
-	// The nodes whose text has begun, from the root down. The last branch of
-	// each is the one that is being read.
-	open []Global
-}
+// textReader reads a text from left to right.
+type textReader struct{ rest string }
 
 // take removes and returns the next byte, or returns 0 at the end of the text.
-func (p *globalParser) take() byte {
-	if p.rest == "" {
+func (r *textReader) take() byte {
+	if r.rest == "" {
 		return 0
 	}
-	c := p.rest[0]
-	p.rest = p.rest[1:]
+	c := r.rest[0]
+	r.rest = r.rest[1:]
 	return c
 }
 
+// skip removes the next byte if it is c, and reports whether it was.
+func (r *textReader) skip(c byte) bool {
+	if r.rest == "" || r.rest[0] != c {
+		return false
+	}
+	r.rest = r.rest[1:]
+	return true
+}
+
 // takeLetter takes the next byte and returns it, or the empty string if it is none of letters.
-func (p *globalParser) takeLetter(letters string) string {
+func (r *textReader) takeLetter(letters string) string {
 	// A piece of the constant, unlike one of the text, does not keep the text in memory.
-	if i := strings.IndexByte(letters, p.take()); i >= 0 {
+	if i := strings.IndexByte(letters, r.take()); i >= 0 {
 		return letters[i : i+1]
 	}
 	return ""
 }
 
+// takeIndex takes the single digit of an index and reports whether it is one.
+func (r *textReader) takeIndex() (int, bool) {
+	c := r.take()
+	return int(c) - '0', '0' <= c && c <= '9'
+}
+
+type globalParser struct {
+	textReader
+	// The nodes whose text has begun, from the root down. The last branch of
+	// each is the one that is being read.
+	open []Global
+}
+
 // begin reads a node without branches, or the text of a node up to its first branch.
 func (p *globalParser) begin() (Global, bool) {
-	if p.rest == "" {
-		return Global{}, false
-	}
-	switch p.rest[0] {
-	case '.':
-		p.take()
+	switch {
+	case p.skip('.'):
 		return Global{Kind: GlobalEnd}, true
-	case '#':
-		p.take()
-		c := p.take()
-		return Global{Kind: GlobalVar, Index: int(c) - '0'}, '0' <= c && c <= '9'
-	case '@':
-		p.take()
+	case p.skip('#'):
+		index, ok := p.takeIndex()
+		return Global{Kind: GlobalVar, Index: index}, ok
+	case p.skip('@'):
 		return Global{Kind: GlobalRec, Branches: []GlobalBranch{{}}}, true
 	}
 	g := Global{Kind: GlobalMessage, From: p.takeLetter(roleLetters), To: p.takeLetter(roleLetters)}
-	brace := p.take()
+	brace := p.skip('{')
 	g.Branches = []GlobalBranch{{Label: p.takeLetter(labelLetters)}}
-	return g, brace == '{'
+	return g, brace
 }
 
 // complete puts g, whose text has ended, into the open nodes and closes those
@@ -389,12 +414,11 @@ func (p *globalParser) complete(g Global) (root Global, more bool, ok bool) {
 		parent := &p.open[last]
 		parent.Branches[len(parent.Branches)-1].Next = g
 		if parent.Kind == GlobalMessage {
-			switch p.take() {
-			case '|':
+			if p.skip('|') {
 				parent.Branches = append(parent.Branches, GlobalBranch{Label: p.takeLetter(labelLetters)})
 				return Global{}, true, true
-			case '}':
-			default:
+			}
+			if !p.skip('}') {
 				return Global{}, false, false
 			}
 		}

@@ -412,6 +412,19 @@ func TestGlobalEqual(t *testing.T) {
 	}
 }
 
+// TestGlobalEqualOfParts compares types whose messages have more and fewer branches of the same memory.
+func TestGlobalEqualOfParts(t *testing.T) {
+	for _, counts := range [][2]int{{1, 2}, {2, 1}} {
+		build := func(second impl.Global) impl.Global {
+			branches := []impl.GlobalBranch{branch("a", end()), branch("b", second)}
+			return message("AB", branch("a", message("BC", branches[:counts[0]]...)), branch("b", message("BC", branches[:counts[1]]...)))
+		}
+		if impl.GlobalEqual(build(end()), build(rec(end()))) || !impl.GlobalEqual(build(end()), build(end())) {
+			t.Error("a part of some branches is confused with all of them")
+		}
+	}
+}
+
 func TestGlobalEqualOfEmptySlices(t *testing.T) {
 	withNil, withEmpty := end(), end()
 	withEmpty.Branches = make([]impl.GlobalBranch, 0, 2)

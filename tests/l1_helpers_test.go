@@ -120,9 +120,9 @@ func textOf(g impl.Global) string {
 	return g.From + g.To + "{" + strings.Join(parts, "|") + "}"
 }
 
-// show describes any small tree for an error message of limited length.
-func show(g impl.Global) string {
-	s := fmt.Sprintf("%+v", g)
+// show describes a value, which holds no large tree, for an error message of limited length.
+func show(value any) string {
+	s := fmt.Sprintf("%+v", value)
 	return s[:min(len(s), 400)]
 }
 
