@@ -5,6 +5,7 @@ import (
 	"math/rand"
 	"strconv"
 	"strings"
+	"sync"
 	"testing"
 	"time"
 
@@ -296,4 +297,24 @@ func returns(t *testing.T, what string, f func()) {
 	case <-time.After(time.Minute):
 		t.Fatalf("%s does not return", what)
 	}
+}
+
+// keepsNoState requires n results to stay the same in another order and at the same time.
+func keepsNoState(t *testing.T, n int, result func(i int) string) {
+	t.Helper()
+	var want []string
+	for i := range n {
+		want = append(want, result(i))
+	}
+	var group sync.WaitGroup
+	for range 4 {
+		group.Go(func() {
+			for i := n - 1; i >= 0; i-- {
+				if got := result(i); got != want[i] {
+					t.Errorf("%q, and later %q", want[i], got)
+				}
+			}
+		})
+	}
+	group.Wait()
 }

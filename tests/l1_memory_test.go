@@ -1,7 +1,6 @@
 package tests
 
 import (
-	"sync"
 	"testing"
 
 	"loop.example/sessiontypes/impl"
@@ -88,27 +87,14 @@ func TestGlobalMemory(t *testing.T) {
 // TestGlobalKeepsNoState calls the functions in another order and at the same time.
 func TestGlobalKeepsNoState(t *testing.T) {
 	list := randomGlobals(300)
-	results := func(g impl.Global) string {
+	results := func(i int) string {
+		g := list[i]
 		u, _ := impl.UnfoldGlobal(g)
 		next, _ := impl.StepGlobal(g, "a")
 		again, _ := impl.ParseGlobal(impl.FormatGlobal(g))
 		return impl.FormatGlobal(g) + " " + impl.FormatGlobal(u) + " " + impl.FormatGlobal(next) + " " + impl.FormatGlobal(again) + " " + impl.GlobalRoles(g)
 	}
-	var want []string
-	for _, g := range list {
-		want = append(want, results(g))
-	}
-	var group sync.WaitGroup
-	for range 4 {
-		group.Go(func() {
-			for i := len(list) - 1; i >= 0; i-- {
-				if got := results(list[i]); got != want[i] {
-					t.Errorf("%q, and later %q", want[i], got)
-				}
-			}
-		})
-	}
-	group.Wait()
+	keepsNoState(t, len(list), results)
 }
 
 // cycle returns a type of the kind that contains itself after n nodes. The last node has the given To.

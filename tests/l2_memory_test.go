@@ -1,7 +1,6 @@
 package tests
 
 import (
-	"sync"
 	"testing"
 
 	"loop.example/sessiontypes/impl"
@@ -99,21 +98,7 @@ func TestLocalKeepsNoState(t *testing.T) {
 		return impl.FormatLocal(l) + " " + impl.FormatLocal(u) + " " + impl.FormatLocal(next) + " " + impl.FormatLocal(reread) + " " + impl.LocalPeers(l) +
 			show([]bool{impl.LocalEquivalent(l, u), impl.IsSubtype(l, other), impl.IsSubtype(other, l)})
 	}
-	var want []string
-	for i := range list {
-		want = append(want, results(i))
-	}
-	var group sync.WaitGroup
-	for range 4 {
-		group.Go(func() {
-			for i := len(list) - 1; i >= 0; i-- {
-				if got := results(i); got != want[i] {
-					t.Errorf("%q, and later %q", want[i], got)
-				}
-			}
-		})
-	}
-	group.Wait()
+	keepsNoState(t, len(list), results)
 }
 
 // localCycle returns a type that contains itself after n nodes. The last node has the given peer.
