@@ -277,3 +277,16 @@ func damagedNetworks(t *testing.T, n int) []impl.Network {
 	}
 	return list
 }
+
+// mixedNetworks returns the given numbers of networks that are random, that are
+// damaged, and that belong to protocols. Of the last, a few are missing.
+func mixedNetworks(t *testing.T, random, damaged, projected int) []impl.Network {
+	t.Helper()
+	list := append(randomNetworks(random), damagedNetworks(t, damaged)...)
+	for _, g := range randomProtocols(projected) {
+		if n, ok := start(t, g); ok {
+			list = append(list, n)
+		}
+	}
+	return list
+}

@@ -23,13 +23,7 @@ func markedActions(list []impl.Action) bool {
 }
 
 func TestExplorationMemory(t *testing.T) {
-	list := append(randomNetworks(150), damagedNetworks(t, 150)...)
-	for _, g := range randomProtocols(150) {
-		if n, ok := start(t, g); ok {
-			list = append(list, n)
-		}
-	}
-	for i, original := range list {
+	for i, original := range mixedNetworks(t, 150, 150, 150) {
 		n, text := spaciousNetwork(original), networkText(original)
 		all := newMemory()
 		all.addNetwork(n)

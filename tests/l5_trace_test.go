@@ -315,14 +315,8 @@ func TestNumberOfReplayed(t *testing.T) {
 // TestExecutionsCanBeReplayed is about promise 5.
 func TestExecutionsCanBeReplayed(t *testing.T) {
 	r := rand.New(rand.NewSource(15))
-	list := append(randomNetworks(600), damagedNetworks(t, 400)...)
-	for _, g := range randomProtocols(600) {
-		if n, ok := start(t, g); ok {
-			list = append(list, n)
-		}
-	}
 	actions, long := 0, 0
-	for _, n := range list {
+	for _, n := range mixedNetworks(t, 600, 400, 600) {
 		trace := checkRun(t, n, randomChoices(r, r.Intn(40)))
 		actions += len(trace)
 		if len(trace) == 24 {
